@@ -114,6 +114,19 @@ func valid() []api.Extent {
 	return list(x(0, 1), x(0, last), x(1, last), x(1, 1), x(last, 1), x(last-1, 1), x(last-1, 2), x(last/2, last/2+1), x(last/2, last/2), x(last/2+1, last/2))
 }
 
+func TestP11_1Valid(t *testing.T) {
+	for _, e := range valid() {
+		if !Valid(e) {
+			t.Errorf("Valid(%v) is false", e)
+		}
+	}
+	for _, e := range wrong() {
+		if Valid(e) {
+			t.Errorf("Valid(%v) is true", e)
+		}
+	}
+}
+
 func TestP11_1New(t *testing.T) {
 	for _, most := range []int{0, 1, 2, 3, 16, 64, 1000, 1 << 20, 1 << 40, math.MaxInt, -1, -2, -64, math.MinInt} {
 		s := New(most)
