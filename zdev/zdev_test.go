@@ -842,6 +842,25 @@ func TestP9_4CrashTears(t *testing.T) {
 	checkZone(t, after, 1, all[1][:2]...)
 }
 
+// Tear answers what Crash leaves of a block, and of that the block.
+func TestP9_4Tear(t *testing.T) {
+	_, all := halves(t, []int{0, 2}, []int{3, 4})
+	for _, l := range all {
+		for _, p := range l {
+			was := slices.Clone(p)
+			one := Tear(p)
+			if !slices.Equal(one, broken(was)) || !slices.Equal(Tear(one), was) || !slices.Equal(p, was) {
+				t.Fatalf("Tear of %x is %x", was, one)
+			}
+		}
+	}
+	for _, p := range [][]byte{nil, {}, {1}, numbered(0)[:32], numbered(0)[:33]} {
+		if q := Tear(p); len(q) != len(p) || !slices.Equal(Tear(q), p) {
+			t.Errorf("Tear of %d bytes is %x", len(p), q)
+		}
+	}
+}
+
 // A new device has power, counts from 0, and keeps all its blocks, the torn one too, through a second crash.
 func TestP9_4CrashIsNew(t *testing.T) {
 	for _, cut := range []int{0, 3} {
